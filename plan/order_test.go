@@ -259,8 +259,7 @@ func TestJoins(t *testing.T) {
 		others := lists(n)
 		for _, family := range families(t, n) {
 			for _, q := range family[1:] {
-				for i := len(q) % 2; i < len(others); i += max(1, (n-4)*3) {
-					r := others[i]
+				for _, r := range others {
 					if !slices.Equal(join(family[0], r), join(q, r)) {
 						t.Fatalf("joins of %v and %v with %v", family[0], q, r)
 					}
